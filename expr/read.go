@@ -2,14 +2,14 @@ package expr
 
 import (
 	"demesne/api"
+	"demesne/cursor"
 	"demesne/token"
 	"demesne/word"
 )
 
 // reader reads an expression from tokens.
 type reader struct {
-	l  []api.Token
-	at int
+	cursor.Cursor
 	// around is how many ( and ! stand around what is read next.
 	around int
 }
@@ -22,46 +22,12 @@ type part struct {
 
 // Parse tells the longest expression from a token on, and the place of the token behind it, or the first fault.
 func Parse(l []api.Token, at int) (api.Expr, int, api.Fault) {
-	r := reader{l: l, at: at}
+	r := reader{Cursor: cursor.New(l, at)}
 	p, fault := r.bound(bindAnd)
 	if fault.Err != api.OK {
 		return api.Expr{}, 0, fault
 	}
-	return p.e, r.at, api.Fault{}
-}
-
-// token tells the next token, an end where the list has none.
-func (r *reader) token() api.Token {
-	if 0 <= r.at && r.at < len(r.l) {
-		return r.l[r.at]
-	}
-	end := api.Token{Kind: api.TEnd}
-	if n := len(r.l); n > 0 {
-		end.At = r.l[n-1].At
-	}
-	return end
-}
-
-// take tells the next token, and goes on behind it.
-func (r *reader) take() api.Token {
-	t := r.token()
-	r.at++
-	return t
-}
-
-// want goes on behind the next token, if it is a sign that has to stand there.
-func (r *reader) want(s string) api.Fault {
-	t := r.token()
-	if !token.Is(t, s) {
-		return wrong(api.ErrToken, t)
-	}
-	r.at++
-	return api.Fault{}
-}
-
-// wrong tells the fault of a token.
-func wrong(err api.Errno, t api.Token) api.Fault {
-	return api.Fault{Err: err, At: t.At}
+	return p.e, r.Place(), api.Fault{}
 }
 
 // bound reads the longest expression that is bound at least so tightly.
@@ -71,7 +37,7 @@ func (r *reader) bound(bind int) (part, api.Fault) {
 	}
 	left, fault := r.bound(bind + 1)
 	for fault.Err == api.OK {
-		s, is := signAt(r.token(), bind)
+		s, is := signAt(r.Token(), bind)
 		if !is {
 			break
 		}
@@ -95,7 +61,7 @@ func signAt(t api.Token, bind int) (sign, bool) {
 
 // join reads a sign and the Kid behind it, and joins it to the one ahead.
 func (r *reader) join(left part, s sign) (part, api.Fault) {
-	t := r.take()
+	t := r.Take()
 	right, fault := r.bound(s.bind + 1)
 	if fault.Err != api.OK {
 		return part{}, fault
@@ -111,14 +77,14 @@ func over(t api.Token, kind int, kids ...part) (part, api.Fault) {
 		p.deep = max(p.deep, k.deep+1)
 	}
 	if p.deep > api.MaxNest {
-		return part{}, wrong(api.ErrDeep, t)
+		return part{}, cursor.Wrong(api.ErrDeep, t)
 	}
 	return p, api.Fault{}
 }
 
 // tight reads an expression that no sign behind it takes apart.
 func (r *reader) tight() (part, api.Fault) {
-	t := r.token()
+	t := r.Token()
 	switch {
 	case token.Is(t, "!"):
 		return r.not()
@@ -134,7 +100,7 @@ func (r *reader) tight() (part, api.Fault) {
 
 // not reads a ! and its Kid.
 func (r *reader) not() (part, api.Fault) {
-	t := r.token()
+	t := r.Token()
 	kid, fault := r.within(bindNot)
 	if fault.Err != api.OK {
 		return part{}, fault
@@ -148,7 +114,7 @@ func (r *reader) bracket() (part, api.Fault) {
 	if fault.Err != api.OK {
 		return part{}, fault
 	}
-	if fault = r.want(")"); fault.Err != api.OK {
+	if fault = r.Want(")"); fault.Err != api.OK {
 		return part{}, fault
 	}
 	return p, api.Fault{}
@@ -156,9 +122,9 @@ func (r *reader) bracket() (part, api.Fault) {
 
 // within reads a ( or a !, and the expression that it stands around.
 func (r *reader) within(bind int) (part, api.Fault) {
-	t := r.take()
+	t := r.Take()
 	if r.around == api.MaxNest {
-		return part{}, wrong(api.ErrDeep, t)
+		return part{}, cursor.Wrong(api.ErrDeep, t)
 	}
 	r.around++
 	p, fault := r.bound(bind)
@@ -168,11 +134,11 @@ func (r *reader) within(bind int) (part, api.Fault) {
 
 // asked reads nil or same, and its Kids between ( and ).
 func (r *reader) asked(kind int) (part, api.Fault) {
-	t := r.take()
+	t := r.Take()
 	var l []part
 	n, _ := kidsOf(kind)
 	for ahead := "("; len(l) < n; ahead = "," {
-		if fault := r.want(ahead); fault.Err != api.OK {
+		if fault := r.Want(ahead); fault.Err != api.OK {
 			return part{}, fault
 		}
 		k, fault := r.bare(kind)
@@ -181,7 +147,7 @@ func (r *reader) asked(kind int) (part, api.Fault) {
 		}
 		l = append(l, k)
 	}
-	if fault := r.want(")"); fault.Err != api.OK {
+	if fault := r.Want(")"); fault.Err != api.OK {
 		return part{}, fault
 	}
 	return over(t, kind, l...)
@@ -189,20 +155,20 @@ func (r *reader) asked(kind int) (part, api.Fault) {
 
 // bare reads a Kid of nil or of same, which no ( may stand around.
 func (r *reader) bare(kind int) (part, api.Fault) {
-	t := r.token()
+	t := r.Token()
 	k, fault := r.plain()
 	if fault.Err == api.OK && !mayHold(kind, k.e.Kind) {
-		return part{}, wrong(api.ErrToken, t)
+		return part{}, cursor.Wrong(api.ErrToken, t)
 	}
 	return k, fault
 }
 
 // plain reads an expression that is one token.
 func (r *reader) plain() (part, api.Fault) {
-	t := r.take()
+	t := r.Take()
 	e, is := plainOf(t)
 	if !is {
-		return part{}, wrong(api.ErrToken, t)
+		return part{}, cursor.Wrong(api.ErrToken, t)
 	}
 	return part{e: e, deep: 1}, api.Fault{}
 }
