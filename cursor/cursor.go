@@ -74,6 +74,15 @@ func (c *Cursor) Name() (string, api.Fault) {
 	return t.Text, api.Fault{}
 }
 
+// Read tells what another layer reads from the next token on, or its fault, and goes on behind what it read.
+func Read[T any](c *Cursor, parse func(l []api.Token, at int) (T, int, api.Fault)) (T, api.Fault) {
+	what, next, fault := parse(c.l, c.at)
+	if fault.Err == api.OK {
+		c.at = next
+	}
+	return what, fault
+}
+
 // Wrong tells the fault of a token.
 func Wrong(err api.Errno, t api.Token) api.Fault {
 	return api.Fault{Err: err, At: t.At}

@@ -153,6 +153,29 @@ func TestNamesAreRead(t *testing.T) {
 	}
 }
 
+func TestWhatAnotherLayerReads(t *testing.T) {
+	l := tokens(t)
+	bad := api.Fault{Err: api.ErrDeep, At: 5}
+	for at := range l {
+		c := cursor.New(l, at)
+		s, f := cursor.Read(&c, func(all []api.Token, from int) (string, int, api.Fault) {
+			if !slices.Equal(all, l) || from != at {
+				t.Errorf("it is asked to read %v from %d on, not from %d", all, from, at)
+			}
+			return "none", 2, bad
+		})
+		if s != "none" || f != bad {
+			t.Errorf("what has a fault is read as %q, %v", s, f)
+		}
+		wantAt(t, &c, at, l[at])
+		n, f := cursor.Read(&c, func([]api.Token, int) (int, int, api.Fault) { return 7, 3, api.Fault{} })
+		if n != 7 || f != (api.Fault{}) {
+			t.Errorf("it is read as %d, %v", n, f)
+		}
+		wantAt(t, &c, 3, l[3])
+	}
+}
+
 func TestWrongIsToldWhereATokenStands(t *testing.T) {
 	if f := cursor.Wrong(api.ErrDeep, api.Token{Kind: api.TSign, Text: "(", At: 9}); f != (api.Fault{Err: api.ErrDeep, At: 9}) {
 		t.Errorf("the fault is %v", f)
