@@ -9,25 +9,25 @@ import (
 	"demesne/annot"
 	"demesne/api"
 	"demesne/kind"
+	"demesne/sample"
 	"demesne/token"
 )
 
 // everyToken is a token of each kind and text, but for names and numbers, of which there are some.
-const everyToken = "class extends rep peer world any unique pure void int if else while return new move delete this null input nil same cast " +
-	"data key Item 0 907 { } ( ) < > , ; . = + - * ! == &&"
+const everyToken = sample.Words + " data key Item 0 907 " + sample.Signs
 
 // params are the owner parameters of the class in which all is read, if nothing else is said.
 var params = []string{"data", "key"}
 
 var (
-	rep    = api.Owner{Kind: api.ORep}
-	peer   = api.Owner{Kind: api.OPeer}
-	world  = api.Owner{Kind: api.OWorld}
-	any0   = api.Owner{Kind: api.OAny}
-	unique = api.Owner{Kind: api.OUnique}
-	hole   = api.Owner{Kind: api.OHole}
-	data   = api.Owner{Kind: api.OParam, N: 1}
-	key    = api.Owner{Kind: api.OParam, N: 2}
+	rep    = sample.Rep
+	peer   = sample.Peer
+	world  = sample.World
+	any0   = sample.Any
+	unique = sample.Unique
+	hole   = sample.Hole
+	data   = sample.Param(1)
+	key    = sample.Param(2)
 )
 
 // owners are the owners that may stand behind a class, by how they are written.
@@ -36,13 +36,6 @@ var owners = map[string]api.Owner{"rep": rep, "peer": peer, "world": world, "any
 // outside are places where a list of so many tokens has none.
 func outside(size int) []int {
 	return []int{math.MinInt, math.MinInt + 1, -77, -2, -1, size, size + 1, size + 77, math.MaxInt - 1, math.MaxInt}
-}
-
-// object is the type of an object with an owner, of a class, with owners behind it.
-func object(o api.Owner, class string, behind ...api.Owner) api.Type {
-	t := api.Type{Kind: api.KObject, Class: class, N: len(behind), Own: [4]api.Owner{o}}
-	copy(t.Own[1:], behind)
-	return t
 }
 
 // isName tells whether a token's text is that of a name.
@@ -263,7 +256,7 @@ func TestTypesThatAreAWord(t *testing.T) {
 	wantBoth(t, "int<rep>", api.Type{Kind: api.KInt}, 1)
 	wantNeither(t, "rep int", api.ErrToken, 4)
 	wantNeither(t, "unique void", api.ErrToken, 7)
-	wantBoth(t, "data int", object(hole, "data"), 1)
+	wantBoth(t, "data int", sample.Object(hole, "data"), 1)
 }
 
 func TestAnObjectsTypeWithEachOwner(t *testing.T) {
@@ -272,29 +265,29 @@ func TestAnObjectsTypeWithEachOwner(t *testing.T) {
 		all[s] = o
 	}
 	for s, o := range all {
-		wantBoth(t, s+" Item x", object(o, "Item"), 2)
-		wantBoth(t, s+" data x", object(o, "data"), 2)
-		wantBoth(t, s+" Item<peer> x", object(o, "Item", peer), 5)
-		wantBoth(t, s+" Item<peer, key> x", object(o, "Item", peer, key), 7)
-		wantBoth(t, s+" Item<any, data, key> x", object(o, "Item", any0, data, key), 9)
-		wantType(t, s+" Item", 0, false, object(o, "Item"), 2)
+		wantBoth(t, s+" Item x", sample.Object(o, "Item"), 2)
+		wantBoth(t, s+" data x", sample.Object(o, "data"), 2)
+		wantBoth(t, s+" Item<peer> x", sample.Object(o, "Item", peer), 5)
+		wantBoth(t, s+" Item<peer, key> x", sample.Object(o, "Item", peer, key), 7)
+		wantBoth(t, s+" Item<any, data, key> x", sample.Object(o, "Item", any0, data, key), 9)
+		wantType(t, s+" Item", 0, false, sample.Object(o, "Item"), 2)
 	}
 }
 
 func TestAnObjectsTypeWithItsOwnerLeftOut(t *testing.T) {
 	for _, class := range []string{"Item", "data", "key"} {
-		wantBoth(t, class, object(hole, class), 1)
-		wantBoth(t, class+";", object(hole, class), 1)
-		wantType(t, class+" x", 0, true, object(hole, class), 1)
-		wantBoth(t, class+"<peer> x", object(hole, class, peer), 4)
-		wantBoth(t, class+"<peer, data>", object(hole, class, peer, data), 6)
-		wantBoth(t, class+"<rep, world, any> x", object(hole, class, rep, world, any0), 8)
+		wantBoth(t, class, sample.Object(hole, class), 1)
+		wantBoth(t, class+";", sample.Object(hole, class), 1)
+		wantType(t, class+" x", 0, true, sample.Object(hole, class), 1)
+		wantBoth(t, class+"<peer> x", sample.Object(hole, class, peer), 4)
+		wantBoth(t, class+"<peer, data>", sample.Object(hole, class, peer, data), 6)
+		wantBoth(t, class+"<rep, world, any> x", sample.Object(hole, class, rep, world, any0), 8)
 	}
 }
 
 func TestParseExampleOfTheChapter(t *testing.T) {
-	wantType(t, "data Item x", 0, true, object(data, "Item"), 2)
-	wantType(t, "Item x", 0, true, object(hole, "Item"), 1)
+	wantType(t, "data Item x", 0, true, sample.Object(data, "Item"), 2)
+	wantType(t, "Item x", 0, true, sample.Object(hole, "Item"), 1)
 }
 
 // namesBehind are the tokens that make a name, with another one behind it, the owner, if it is named.
@@ -314,14 +307,14 @@ func TestANameThatStandsFirst(t *testing.T) {
 					isOwner := isName(second) && (!named || third != "" && strings.Contains(namesBehind, " "+third+" "))
 					switch {
 					case !isOwner:
-						wantType(t, text, 0, named, object(hole, first), 1)
+						wantType(t, text, 0, named, sample.Object(hole, first), 1)
 					case first == "Item":
 						wantNoType(t, text, 0, named, api.ErrOwner, 0)
 					case third == "<":
 						wantNoType(t, text, 0, named, api.ErrToken, len(text))
-						wantType(t, text+" rep > x", 0, named, object(data, second, rep), 5)
+						wantType(t, text+" rep > x", 0, named, sample.Object(data, second, rep), 5)
 					default:
-						wantType(t, text, 0, named, object(data, second), 2)
+						wantType(t, text, 0, named, sample.Object(data, second), 2)
 					}
 				}
 			}
@@ -331,8 +324,8 @@ func TestANameThatStandsFirst(t *testing.T) {
 
 func TestANameAheadOfOwners(t *testing.T) {
 	for _, s := range append(strings.Fields(everyToken), "") {
-		wantBoth(t, "Item<rep> "+s, object(hole, "Item", rep), 4)
-		wantBoth(t, "data<data> "+s+" x", object(hole, "data", data), 4)
+		wantBoth(t, "Item<rep> "+s, sample.Object(hole, "Item", rep), 4)
+		wantBoth(t, "data<data> "+s+" x", sample.Object(hole, "data", data), 4)
 	}
 	wantNoType(t, "Item key<rep", 0, true, api.ErrOwner, 0)
 	wantNeither(t, "data Item<", api.ErrToken, 10)
@@ -346,12 +339,12 @@ func TestANameBehindAnOwnerIsTheClass(t *testing.T) {
 			o = unique
 		}
 		for _, behind := range []string{"", "x", "x y", "this", "null", "7", ";", "= 1"} {
-			wantBoth(t, s+" key "+behind, object(o, "key"), 2)
-			wantBoth(t, s+" Item "+behind, object(o, "Item"), 2)
+			wantBoth(t, s+" key "+behind, sample.Object(o, "key"), 2)
+			wantBoth(t, s+" Item "+behind, sample.Object(o, "Item"), 2)
 		}
 	}
-	wantBoth(t, "data key Item x", object(data, "key"), 2)
-	wantBoth(t, "key key key x", object(key, "key"), 2)
+	wantBoth(t, "data key Item x", sample.Object(data, "key"), 2)
+	wantBoth(t, "key key key x", sample.Object(key, "key"), 2)
 }
 
 func TestTokensThatCannotBeginAType(t *testing.T) {
@@ -406,13 +399,13 @@ func TestATypesOwnersTellTheirFaults(t *testing.T) {
 
 func TestTypesFromATokenOn(t *testing.T) {
 	text := "x = new data Map < key > ; rep Item y ; void"
-	wantType(t, text, 3, false, object(data, "Map", key), 8)
-	wantType(t, text, 4, true, object(hole, "Map", key), 8)
-	wantType(t, text, 6, true, object(hole, "key"), 7)
-	wantType(t, text, 9, true, object(rep, "Item"), 11)
-	wantType(t, text, 10, true, object(hole, "Item"), 11)
+	wantType(t, text, 3, false, sample.Object(data, "Map", key), 8)
+	wantType(t, text, 4, true, sample.Object(hole, "Map", key), 8)
+	wantType(t, text, 6, true, sample.Object(hole, "key"), 7)
+	wantType(t, text, 9, true, sample.Object(rep, "Item"), 11)
+	wantType(t, text, 10, true, sample.Object(hole, "Item"), 11)
 	wantNoType(t, text, 10, false, api.ErrOwner, 31)
-	wantType(t, text, 11, false, object(hole, "y"), 12)
+	wantType(t, text, 11, false, sample.Object(hole, "y"), 12)
 	wantType(t, text, 13, true, api.Type{}, 14)
 	for at, where := range map[int]int{1: 2, 2: 4, 5: 17, 7: 23, 8: 25, 12: 38, 14: 44} {
 		wantNoType(t, text, at, false, api.ErrToken, where)
@@ -425,30 +418,30 @@ func TestTypesFromATokenOn(t *testing.T) {
 func TestAVariableOfEachType(t *testing.T) {
 	of := func(x api.Type) api.Var { return api.Var{Name: "x", Type: x} }
 	wantVar(t, "int x", 0, of(api.Type{Kind: api.KInt}), 2)
-	wantVar(t, "Item x", 0, of(object(hole, "Item")), 2)
-	wantVar(t, "Item<rep, key> x", 0, of(object(hole, "Item", rep, key)), 7)
-	wantVar(t, "unique Item x", 0, of(object(unique, "Item")), 3)
-	wantVar(t, "unique Item<any> x", 0, of(object(unique, "Item", any0)), 6)
+	wantVar(t, "Item x", 0, of(sample.Object(hole, "Item")), 2)
+	wantVar(t, "Item<rep, key> x", 0, of(sample.Object(hole, "Item", rep, key)), 7)
+	wantVar(t, "unique Item x", 0, of(sample.Object(unique, "Item")), 3)
+	wantVar(t, "unique Item<any> x", 0, of(sample.Object(unique, "Item", any0)), 6)
 	for s, o := range owners {
-		wantVar(t, s+" Item x", 0, of(object(o, "Item")), 3)
-		wantVar(t, s+" Item<"+s+"> x", 0, of(object(o, "Item", o)), 6)
-		wantVar(t, s+" Item<"+s+","+s+"> x", 0, of(object(o, "Item", o, o)), 8)
-		wantVar(t, s+" Item<"+s+","+s+","+s+"> x", 0, of(object(o, "Item", o, o, o)), 10)
+		wantVar(t, s+" Item x", 0, of(sample.Object(o, "Item")), 3)
+		wantVar(t, s+" Item<"+s+"> x", 0, of(sample.Object(o, "Item", o)), 6)
+		wantVar(t, s+" Item<"+s+","+s+"> x", 0, of(sample.Object(o, "Item", o, o)), 8)
+		wantVar(t, s+" Item<"+s+","+s+","+s+"> x", 0, of(sample.Object(o, "Item", o, o, o)), 10)
 	}
 }
 
 func TestAVariableEndsBehindItsName(t *testing.T) {
 	for _, s := range append(strings.Fields(everyToken), "") {
 		wantVar(t, "int x "+s, 0, api.Var{Name: "x", Type: api.Type{Kind: api.KInt}}, 2)
-		wantVar(t, "rep Item x "+s, 0, api.Var{Name: "x", Type: object(rep, "Item")}, 3)
-		wantVar(t, "data Item x "+s+" y", 0, api.Var{Name: "x", Type: object(data, "Item")}, 3)
-		wantVar(t, "Item<any> x "+s, 0, api.Var{Name: "x", Type: object(hole, "Item", any0)}, 5)
+		wantVar(t, "rep Item x "+s, 0, api.Var{Name: "x", Type: sample.Object(rep, "Item")}, 3)
+		wantVar(t, "data Item x "+s+" y", 0, api.Var{Name: "x", Type: sample.Object(data, "Item")}, 3)
+		wantVar(t, "Item<any> x "+s, 0, api.Var{Name: "x", Type: sample.Object(hole, "Item", any0)}, 5)
 	}
 	// Two names are a class and a variable, just if what is behind them doesn't make them an owner and a class.
 	for _, s := range append(strings.Fields(everyToken), "") {
 		if !strings.Contains(namesBehind, " "+s+" ") || s == "" {
-			wantVar(t, "Item x "+s, 0, api.Var{Name: "x", Type: object(hole, "Item")}, 2)
-			wantVar(t, "data key "+s, 0, api.Var{Name: "key", Type: object(hole, "data")}, 2)
+			wantVar(t, "Item x "+s, 0, api.Var{Name: "x", Type: sample.Object(hole, "Item")}, 2)
+			wantVar(t, "data key "+s, 0, api.Var{Name: "key", Type: sample.Object(hole, "data")}, 2)
 		}
 	}
 	for _, s := range []string{"this", "null"} {
@@ -460,11 +453,11 @@ func TestAVariableEndsBehindItsName(t *testing.T) {
 func TestAVariableStandsWhereItsTypeBegins(t *testing.T) {
 	text := "( int a , rep B b , data C c , D d , E < rep > e )"
 	wantVar(t, text, 1, api.Var{Name: "a", Type: api.Type{Kind: api.KInt}, At: 2}, 3)
-	wantVar(t, text, 4, api.Var{Name: "b", Type: object(rep, "B"), At: 10}, 7)
-	wantVar(t, text, 5, api.Var{Name: "b", Type: object(hole, "B"), At: 14}, 7)
-	wantVar(t, text, 8, api.Var{Name: "c", Type: object(data, "C"), At: 20}, 11)
-	wantVar(t, text, 12, api.Var{Name: "d", Type: object(hole, "D"), At: 31}, 14)
-	wantVar(t, text, 15, api.Var{Name: "e", Type: object(hole, "E", rep), At: 37}, 20)
+	wantVar(t, text, 4, api.Var{Name: "b", Type: sample.Object(rep, "B"), At: 10}, 7)
+	wantVar(t, text, 5, api.Var{Name: "b", Type: sample.Object(hole, "B"), At: 14}, 7)
+	wantVar(t, text, 8, api.Var{Name: "c", Type: sample.Object(data, "C"), At: 20}, 11)
+	wantVar(t, text, 12, api.Var{Name: "d", Type: sample.Object(hole, "D"), At: 31}, 14)
+	wantVar(t, text, 15, api.Var{Name: "e", Type: sample.Object(hole, "E", rep), At: 37}, 20)
 	for at, where := range map[int]int{0: 0, 2: 8, 3: 8, 7: 18, 11: 29, 13: 35, 14: 35, 16: 39, 20: 49, 21: 50} {
 		wantNoVar(t, text, at, api.ErrToken, where)
 	}
@@ -582,7 +575,7 @@ func TestTokensWithoutAnEnd(t *testing.T) {
 	if o, n, f := annot.Owners(l[2:5], 0, params); f != (api.Fault{}) || n != 3 || !slices.Equal(o, []api.Owner{any0}) {
 		t.Errorf("the owners are %v, %d, %v", o, n, f)
 	}
-	if x, n, f := annot.Parse(l[1:2], 0, params, true); f != (api.Fault{}) || n != 1 || x != object(hole, "Item") {
+	if x, n, f := annot.Parse(l[1:2], 0, params, true); f != (api.Fault{}) || n != 1 || x != sample.Object(hole, "Item") {
 		t.Errorf("the type of one token is %v, %d, %v", x, n, f)
 	}
 	if annot.Begins(l[1:2], 0) || !annot.Begins(l[:1], 0) || !annot.Begins(l[1:3], 0) {
@@ -628,14 +621,14 @@ func TestTypesComeBack(t *testing.T) {
 		// A class may have the name of a parameter, or of the variable.
 		for _, class := range []string{"List", "data", "x", strings.Repeat("Z", api.MaxName)} {
 			for _, l := range lists {
-				wantBack(t, object(first, class, l...), names)
+				wantBack(t, sample.Object(first, class, l...), names)
 			}
 		}
 	}
 	for _, none := range [][]string{nil, {}} {
-		wantBack(t, object(hole, "Item"), none)
-		wantBack(t, object(rep, "Item", any0, world), none)
-		wantBack(t, object(unique, "Item", peer), none)
+		wantBack(t, sample.Object(hole, "Item"), none)
+		wantBack(t, sample.Object(rep, "Item", any0, world), none)
+		wantBack(t, sample.Object(unique, "Item", peer), none)
 	}
 }
 
@@ -680,7 +673,7 @@ func TestAnswersHangOnTheArgumentsAlone(t *testing.T) {
 		wantOwners(t, "<rep, data>", 0, params, 5, rep, data)
 		wantNoOwners(t, "<other>", 0, api.ErrOwner, 1)
 		wantOwners(t, "<other>", 0, []string{"x", "other"}, 3, key)
-		wantBoth(t, "data Item<key> x", object(data, "Item", key), 5)
+		wantBoth(t, "data Item<key> x", sample.Object(data, "Item", key), 5)
 	}
 }
 

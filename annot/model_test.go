@@ -7,6 +7,7 @@ import (
 
 	"demesne/annot"
 	"demesne/api"
+	"demesne/sample"
 )
 
 // form is how tokens stand one behind the other: O is an owner, C a class, and each other byte itself, or its word's first one.
@@ -112,7 +113,7 @@ func typeOf(l []api.Token, f form) api.Type {
 		}
 		l, f = l[1:], f[1:]
 	}
-	return object(o, l[0].Text, ownersOf(l, f)...)
+	return sample.Object(o, l[0].Text, ownersOf(l, f)...)
 }
 
 // ownersOf tells the owners among tokens in a form.
@@ -149,7 +150,7 @@ func askModel(t *testing.T, text string) bool {
 		more = more || fault.At == len(text) || len(whole) >= len(l)-2
 	}
 	own, n, f := annot.Owners(l, 0, params)
-	ask(ownersForms, object(hole, "", own...), n, f, object(hole, ""), func(f form) any { return object(hole, "", ownersOf(l, f)...) })
+	ask(ownersForms, sample.Object(hole, "", own...), n, f, sample.Object(hole, ""), func(f form) any { return sample.Object(hole, "", ownersOf(l, f)...) })
 	for _, named := range []bool{false, true} {
 		x, n, f := annot.Parse(l, 0, params, named)
 		ask(firstNames(padded(l), typeForms(), named), x, n, f, api.Type{}, func(f form) any { return typeOf(l, f) })
@@ -165,18 +166,10 @@ func askModel(t *testing.T, text string) bool {
 // wantModel asks that all texts of these tokens, up to where more of them change nothing any more, are read as the model reads them.
 func wantModel(t *testing.T, tokens string, most int) {
 	t.Helper()
-	texts := []string{""}
-	for size := 0; size <= most && len(texts) > 0; size++ {
-		var longer []string
-		for _, s := range texts {
-			if askModel(t, s) {
-				for _, w := range strings.Fields(tokens) {
-					longer = append(longer, strings.TrimSpace(s+" "+w))
-				}
-			}
-		}
-		texts = longer
-	}
+	sample.Longer("", tokens, most, func(text string) bool {
+		t.Helper()
+		return askModel(t, text)
+	})
 }
 
 func TestAllShortTextsAreReadAsTheModelReadsThem(t *testing.T) {

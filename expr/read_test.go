@@ -8,12 +8,12 @@ import (
 
 	"demesne/api"
 	"demesne/expr"
+	"demesne/sample"
 	"demesne/token"
 )
 
 // everyToken is a token of each kind and text, but for names and numbers, of which there are some.
-const everyToken = "class extends rep peer world any unique pure void int if else while return new move delete this null input nil same cast " +
-	"a List 0 907 { } ( ) < > , ; . = + - * ! == &&"
+const everyToken = sample.Words + " a List 0 907 " + sample.Signs
 
 // tokensOf are the tokens of a text that has no fault.
 func tokensOf(t *testing.T, text string) []api.Token {

@@ -9,6 +9,7 @@ import (
 	"demesne/api"
 	"demesne/expr"
 	"demesne/kind"
+	"demesne/sample"
 	"demesne/stmt"
 	"demesne/token"
 )
@@ -234,18 +235,10 @@ func askModel(t *testing.T, text string, nest int) bool {
 // wantModel asks that all texts of these tokens, up to where more of them change nothing any more, are read as the model reads them.
 func wantModel(t *testing.T, first, tokens string, most, nest int) {
 	t.Helper()
-	texts := []string{first}
-	for size := 0; size <= most && len(texts) > 0; size++ {
-		var longer []string
-		for _, s := range texts {
-			if askModel(t, s, nest) {
-				for _, w := range strings.Fields(tokens) {
-					longer = append(longer, strings.TrimSpace(s+" "+w))
-				}
-			}
-		}
-		texts = longer
-	}
+	sample.Longer(first, tokens, most, func(text string) bool {
+		t.Helper()
+		return askModel(t, text, nest)
+	})
 }
 
 func TestAllShortTextsAreReadAsTheModelReadsThem(t *testing.T) {

@@ -7,13 +7,13 @@ import (
 	"testing"
 
 	"demesne/api"
+	"demesne/sample"
 	"demesne/stmt"
 	"demesne/token"
 )
 
 // everyToken is a token of each kind and text, but for names and numbers, of which there are some.
-const everyToken = "class extends rep peer world any unique pure void int if else while return new move delete this null input nil same cast " +
-	"data Item 0 907 { } ( ) < > , ; . = + - * ! == &&"
+const everyToken = sample.Words + " data Item 0 907 " + sample.Signs
 
 // outside are places where a list of so many tokens has none.
 func outside(size int) []int {
@@ -262,7 +262,7 @@ func TestWhatStandsBehindTheSign(t *testing.T) {
 func TestACastOfEachToken(t *testing.T) {
 	kinds := map[string]api.Expr{"data": name("data"), "Item": name("Item"), "this": this, "null": null}
 	for _, w := range strings.Fields(everyToken) {
-		for ahead, x := range map[string]api.Type{"x = cast rep Item ": object(rep, "Item"), "x = cast List<any> ": object(hole, "List", any0), "x = cast unique Item<data, rep> ": object(unique, "Item", data, rep)} {
+		for ahead, x := range map[string]api.Type{"x = cast rep Item ": sample.Object(rep, "Item"), "x = cast List<any> ": sample.Object(hole, "List", any0), "x = cast unique Item<data, rep> ": sample.Object(unique, "Item", data, rep)} {
 			e, is := kinds[w]
 			switch {
 			case is:
@@ -283,14 +283,14 @@ func TestACastOfEachToken(t *testing.T) {
 }
 
 func TestATypeAheadOfANameOrNot(t *testing.T) {
-	wantWhole(t, "x = new data Item;", made("x", object(data, "Item")))
-	wantWhole(t, "x = new data;", made("x", object(hole, "data")))
-	wantWhole(t, "x = cast data Item;", cast("x", object(hole, "data"), name("Item")))
-	wantWhole(t, "x = cast data Item y;", cast("x", object(data, "Item"), name("y")))
-	wantWhole(t, "x = cast data Item this;", cast("x", object(data, "Item"), this))
-	wantWhole(t, "x = cast data this;", cast("x", object(hole, "data"), this))
-	wantWhole(t, "x = cast other y;", cast("x", object(hole, "other"), name("y")))
-	wantWhole(t, "x = cast data Item<key> null;", cast("x", object(data, "Item", key), null))
+	wantWhole(t, "x = new data Item;", made("x", sample.Object(data, "Item")))
+	wantWhole(t, "x = new data;", made("x", sample.Object(hole, "data")))
+	wantWhole(t, "x = cast data Item;", cast("x", sample.Object(hole, "data"), name("Item")))
+	wantWhole(t, "x = cast data Item y;", cast("x", sample.Object(data, "Item"), name("y")))
+	wantWhole(t, "x = cast data Item this;", cast("x", sample.Object(data, "Item"), this))
+	wantWhole(t, "x = cast data this;", cast("x", sample.Object(hole, "data"), this))
+	wantWhole(t, "x = cast other y;", cast("x", sample.Object(hole, "other"), name("y")))
+	wantWhole(t, "x = cast data Item<key> null;", cast("x", sample.Object(data, "Item", key), null))
 	wantFaultAt(t, "x = new ^other Item;", api.ErrOwner)
 	wantFaultAt(t, "x = new data Item ^y;", api.ErrToken)
 	wantFaultAt(t, "x = cast ^other Item y;", api.ErrOwner)
@@ -525,7 +525,7 @@ func TestTokensWithoutAnEnd(t *testing.T) {
 	if b, n, f := stmt.Block(l[:9], 0, params, 0); f != (api.Fault{}) || n != 9 || len(b) != 1 {
 		t.Errorf("the statements are %s, %d, %v", told(b), n, f)
 	}
-	if s, n, f := stmt.Parse(l[:8], 1, params, 0); f != (api.Fault{}) || n != 8 || !alike(s, placed(cast("x", object(data, "Item"), this), 2)) {
+	if s, n, f := stmt.Parse(l[:8], 1, params, 0); f != (api.Fault{}) || n != 8 || !alike(s, placed(cast("x", sample.Object(data, "Item"), this), 2)) {
 		t.Errorf("the statement is %s, %d, %v", told(s), n, f)
 	}
 }
@@ -598,7 +598,7 @@ func TestAnswersShareNothing(t *testing.T) {
 
 func TestAnswersHangOnTheArgumentsAlone(t *testing.T) {
 	for range 3 {
-		wantWhole(t, "x = new data Item;", made("x", object(data, "Item")))
+		wantWhole(t, "x = new data Item;", made("x", sample.Object(data, "Item")))
 		wantFault(t, "x = new int;", 0, 0, api.ErrToken, 8)
 		wantFault(t, "x = 1;", 0, 20, api.ErrDeep, 0)
 		wantBlock(t, "{ }", 0, 0, 2)

@@ -9,6 +9,7 @@ import (
 
 	"demesne/api"
 	"demesne/kind"
+	"demesne/sample"
 	"demesne/stmt"
 )
 
@@ -22,14 +23,14 @@ var (
 )
 
 var (
-	rep    = api.Owner{Kind: api.ORep}
-	peer   = api.Owner{Kind: api.OPeer}
-	world  = api.Owner{Kind: api.OWorld}
-	any0   = api.Owner{Kind: api.OAny}
-	unique = api.Owner{Kind: api.OUnique}
-	hole   = api.Owner{Kind: api.OHole}
-	data   = api.Owner{Kind: api.OParam, N: 1}
-	key    = api.Owner{Kind: api.OParam, N: 2}
+	rep    = sample.Rep
+	peer   = sample.Peer
+	world  = sample.World
+	any0   = sample.Any
+	unique = sample.Unique
+	hole   = sample.Hole
+	data   = sample.Param(1)
+	key    = sample.Param(2)
 )
 
 // numbers are what a number is tried with, where any can be handed in.
@@ -50,13 +51,6 @@ func num(n int) api.Expr { return api.Expr{Kind: api.EInt, Num: n} }
 func name(s string) api.Expr { return api.Expr{Kind: api.EVar, Name: s} }
 
 func of(kind int, kids ...api.Expr) api.Expr { return api.Expr{Kind: kind, Kids: kids} }
-
-// object is the type of an object with an owner, of a class, with owners behind it.
-func object(o api.Owner, class string, behind ...api.Owner) api.Type {
-	t := api.Type{Kind: api.KObject, Class: class, N: len(behind), Own: [4]api.Owner{o}}
-	copy(t.Own[1:], behind)
-	return t
-}
 
 func set(x string, e api.Expr) api.Stmt { return api.Stmt{Kind: api.SSet, X: x, E: e} }
 
@@ -112,12 +106,12 @@ func eachKind() map[string]api.Stmt {
 		"y.m();\n":                              call("", "y", "m"),
 		"this.m(x);\n":                          call("", "this", "m", name("x")),
 		"this.m(1, b, this, null, !input);\n":   call("", "this", "m", five()...),
-		"x = new rep Item;\n":                   made("x", object(rep, "Item")),
-		"x = new Item;\n":                       made("x", object(hole, "Item")),
-		"x = new unique Map<data, any, key>;\n": made("x", object(unique, "Map", data, any0, key)),
-		"x = cast data Item y;\n":               cast("x", object(data, "Item"), name("y")),
-		"x = cast Item this;\n":                 cast("x", object(hole, "Item"), this),
-		"x = cast world List<peer> null;\n":     cast("x", object(world, "List", peer), null),
+		"x = new rep Item;\n":                   made("x", sample.Object(rep, "Item")),
+		"x = new Item;\n":                       made("x", sample.Object(hole, "Item")),
+		"x = new unique Map<data, any, key>;\n": made("x", sample.Object(unique, "Map", data, any0, key)),
+		"x = cast data Item y;\n":               cast("x", sample.Object(data, "Item"), name("y")),
+		"x = cast Item this;\n":                 cast("x", sample.Object(hole, "Item"), this),
+		"x = cast world List<peer> null;\n":     cast("x", sample.Object(world, "List", peer), null),
 		"x = move y;\n":                         move("x", "y"),
 		"delete y;\n":                           deleted("y"),
 		"if (a < 1) {\n}\n":                     if0(of(api.ELess, name("a"), num(1)), nil, nil),
@@ -284,7 +278,7 @@ var laid = []change{
 	{"Y", func(s *api.Stmt) { s.Y = "z" }},
 	{"Y", func(s *api.Stmt) { s.Y = "This" }},
 	{"Name", func(s *api.Stmt) { s.Name = "z9" }},
-	{"Type", func(s *api.Stmt) { s.Type = object(key, "Z", any0, data) }},
+	{"Type", func(s *api.Stmt) { s.Type = sample.Object(key, "Z", any0, data) }},
 	{"E", func(s *api.Stmt) { s.E = name("z") }},
 	{"E", func(s *api.Stmt) { s.E = this }},
 	{"Args", func(s *api.Stmt) { s.Args = []api.Expr{num(0)} }},
@@ -382,31 +376,31 @@ func TestFiveArgumentsAtMost(t *testing.T) {
 func TestACastIsOfANameThisOrNull(t *testing.T) {
 	a := name("a")
 	for _, e := range []api.Expr{a, this, null} {
-		wantRight(t, cast("x", object(rep, "Item"), e), true)
+		wantRight(t, cast("x", sample.Object(rep, "Item"), e), true)
 	}
 	for _, e := range []api.Expr{
 		num(1), input, of(api.EAdd, a, a), of(api.ESub, a, a), of(api.EMul, a, a), of(api.ELess, a, a), of(api.EEqual, a, a), of(api.EAnd, a, a),
 		of(api.ENot, a), of(api.ENil, a), of(api.ESame, a, null), {},
 	} {
-		wantRight(t, cast("x", object(rep, "Item"), e), false)
+		wantRight(t, cast("x", sample.Object(rep, "Item"), e), false)
 	}
 }
 
 func TestTypesAreObjectsThatMayBe(t *testing.T) {
-	badOwn := object(rep, "Item")
+	badOwn := sample.Object(rep, "Item")
 	badOwn.Own[1] = rep
-	badN := object(rep, "Item", peer)
+	badN := sample.Object(rep, "Item", peer)
 	badN.N = 4
 	wrong := []api.Type{
-		{}, {Kind: api.KInt}, {Kind: api.KNull}, {Kind: -1}, {Kind: api.KInt, Class: "Item"}, object(rep, ""), object(rep, "int"),
-		object(api.Owner{}, "Item"), object(api.Owner{Kind: api.OHidden}, "Item"), object(api.Owner{Kind: api.OParam, N: 3}, "Item"), object(api.Owner{Kind: api.OParam}, "Item"),
-		object(rep, "Item", unique), object(rep, "Item", key, api.Owner{}), badOwn, badN,
+		{}, {Kind: api.KInt}, {Kind: api.KNull}, {Kind: -1}, {Kind: api.KInt, Class: "Item"}, sample.Object(rep, ""), sample.Object(rep, "int"),
+		sample.Object(api.Owner{}, "Item"), sample.Object(api.Owner{Kind: api.OHidden}, "Item"), sample.Object(api.Owner{Kind: api.OParam, N: 3}, "Item"), sample.Object(api.Owner{Kind: api.OParam}, "Item"),
+		sample.Object(rep, "Item", unique), sample.Object(rep, "Item", key, api.Owner{}), badOwn, badN,
 	}
 	for _, x := range wrong {
 		wantRight(t, made("x", x), false)
 		wantRight(t, cast("x", x, null), false)
 	}
-	for _, x := range []api.Type{object(hole, "Item"), object(api.Owner{Kind: api.OHole, N: 77}, "Item"), object(rep, "Item", hole), object(unique, "Item", data, key, any0)} {
+	for _, x := range []api.Type{sample.Object(hole, "Item"), sample.Object(api.Owner{Kind: api.OHole, N: 77}, "Item"), sample.Object(rep, "Item", hole), sample.Object(unique, "Item", data, key, any0)} {
 		wantRight(t, made("x", x), true)
 		wantRight(t, cast("x", x, null), true)
 	}
@@ -414,7 +408,7 @@ func TestTypesAreObjectsThatMayBe(t *testing.T) {
 
 func TestAParameterThatTheClassHas(t *testing.T) {
 	for n := 1; n <= 5; n++ {
-		s := made("x", object(rep, "Item", api.Owner{Kind: api.OParam, N: n}))
+		s := made("x", sample.Object(rep, "Item", api.Owner{Kind: api.OParam, N: n}))
 		for _, p := range append([]int{3, 4, 5}, numbers...) {
 			for _, x := range []api.Stmt{s, while(num(1), s), if0(num(1), nil, list(back(this), s))} {
 				if got := stmt.Right(x, p); got != (n <= p) {
@@ -540,7 +534,7 @@ func TestTextOfOthersIsNothing(t *testing.T) {
 }
 
 func TestTextWithOtherParameters(t *testing.T) {
-	s := while(num(1), made("x", object(data, "Item", key)), cast("x", object(key, "Item"), null))
+	s := while(num(1), made("x", sample.Object(data, "Item", key)), cast("x", sample.Object(key, "Item"), null))
 	for want, names := range map[string][]string{
 		"while (1) {\n\tx = new a Item<b>;\n\tx = cast b Item null;\n}\n": {"a", "b", "c"},
 		"while (1) {\n\tx = new a Item<a>;\n\tx = cast a Item null;\n}\n": {"a", "a"},
@@ -561,8 +555,8 @@ func TestTextWithOtherParameters(t *testing.T) {
 }
 
 func TestTextOfTypesWithHoles(t *testing.T) {
-	wantText(t, made("x", object(hole, "Item", hole, rep)), 0, "x = new Item<?, rep>;\n")
-	wantText(t, cast("x", object(api.Owner{Kind: api.OHole, N: 3}, "Item"), this), 0, "x = cast Item this;\n")
+	wantText(t, made("x", sample.Object(hole, "Item", hole, rep)), 0, "x = new Item<?, rep>;\n")
+	wantText(t, cast("x", sample.Object(api.Owner{Kind: api.OHole, N: 3}, "Item"), this), 0, "x = cast Item this;\n")
 }
 
 // 8.3 Size
@@ -662,7 +656,7 @@ var unlike = append([]change{
 
 func TestSameInAllParts(t *testing.T) {
 	all := api.Stmt{
-		Kind: 3, X: "x", Y: "y", Name: "f", Type: object(rep, "Item", data), E: of(api.EAdd, num(1), num(2)), Args: []api.Expr{num(1), name("a")},
+		Kind: 3, X: "x", Y: "y", Name: "f", Type: sample.Object(rep, "Item", data), E: of(api.EAdd, num(1), num(2)), Args: []api.Expr{num(1), name("a")},
 		Body: list(set("x", num(1)), back(this)), Else: list(deleted("y"), set("x", num(1))),
 	}
 	for i, c := range unlike {
@@ -685,7 +679,7 @@ func someTypes() []api.Type {
 	var l []api.Type
 	for _, o := range []api.Owner{rep, peer, world, any0, unique, data, key, hole} {
 		for _, class := range []string{"Item", "data", "y"} {
-			l = append(l, object(o, class), object(o, class, any0), object(o, class, data, key, world))
+			l = append(l, sample.Object(o, class), sample.Object(o, class, any0), sample.Object(o, class, data, key, world))
 		}
 	}
 	return l
